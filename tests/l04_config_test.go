@@ -84,6 +84,20 @@ func invalidConfigs() []impl.Config {
 	return append(list, right)
 }
 
+// invalidConfigsWithFlags returns these configurations with all flags.
+func invalidConfigsWithFlags() []impl.Config {
+	var list []impl.Config
+	for _, c := range invalidConfigs() {
+		for bits := range 32 {
+			flagged := withFlags(c, bits)
+			// Some are not valid only because Right is set.
+			flagged.Right = flagged.Right || c.Right
+			list = append(list, flagged)
+		}
+	}
+	return list
+}
+
 func TestIsConfig(t *testing.T) {
 	for _, x := range []struct {
 		c    impl.Config

@@ -512,23 +512,16 @@ func TestCountCells(t *testing.T) {
 }
 
 func TestCellsOfInvalidConfigs(t *testing.T) {
-	for _, c := range invalidConfigs() {
-		for bits := range 32 {
-			c := c
-			right := c.Right
-			c = withFlags(c, bits)
-			// Some are not valid only because Right is set.
-			c.Right = c.Right || right
-			for _, s := range []string{"", "a", "a\tb\n", "\n\f", "<b>&lt;\xff\f"} {
-				width, lines, closed := impl.CellWidth(c, s), impl.SplitText(c, s), impl.ClosedLength(c, s)
-				if width != 0 || len(lines) != 0 || closed != 0 {
-					t.Errorf("with %+v, %q has the width %d, the lines %+v and the closed length %d", c, s, width, lines, closed)
-				}
+	for _, c := range invalidConfigsWithFlags() {
+		for _, s := range []string{"", "a", "a\tb\n", "\n\f", "<b>&lt;\xff\f"} {
+			width, lines, closed := impl.CellWidth(c, s), impl.SplitText(c, s), impl.ClosedLength(c, s)
+			if width != 0 || len(lines) != 0 || closed != 0 {
+				t.Errorf("with %+v, %q has the width %d, the lines %+v and the closed length %d", c, s, width, lines, closed)
 			}
-			for _, list := range [][]impl.Line{nil, {}, {line(10, "a", "b"), line(0, "c")}, {line(7, "a")}} {
-				if got := impl.JoinLines(c, list); got != "" {
-					t.Errorf("JoinLines(%+v, %+v) = %q", c, list, got)
-				}
+		}
+		for _, list := range [][]impl.Line{nil, {}, {line(10, "a", "b"), line(0, "c")}, {line(7, "a")}} {
+			if got := impl.JoinLines(c, list); got != "" {
+				t.Errorf("JoinLines(%+v, %+v) = %q", c, list, got)
 			}
 		}
 	}

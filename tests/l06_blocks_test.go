@@ -526,21 +526,15 @@ func TestCountBlocks(t *testing.T) {
 }
 
 func TestBlocksOfInvalidConfigs(t *testing.T) {
-	for _, c := range invalidConfigs() {
-		for bits := range 32 {
-			right := c.Right
-			c := withFlags(c, bits)
-			// Some are not valid only because Right is set.
-			c.Right = c.Right || right
-			for _, list := range [][]impl.Line{nil, {}, {{}}, {lineOfWidths(10, 0)}, {lineOfWidths(10, 1, 2), lineOfWidths(0, 3)}, {lineOfWidths(10, -1)}} {
-				if blocks, widths := impl.BlocksOf(c, list), impl.WidthsOf(c, list); len(blocks) != 0 || len(widths) != 0 {
-					t.Errorf("with %+v, %+v has the blocks %+v and the widths %v", c, list, blocks, widths)
-				}
+	for _, c := range invalidConfigsWithFlags() {
+		for _, list := range [][]impl.Line{nil, {}, {{}}, {lineOfWidths(10, 0)}, {lineOfWidths(10, 1, 2), lineOfWidths(0, 3)}, {lineOfWidths(10, -1)}} {
+			if blocks, widths := impl.BlocksOf(c, list), impl.WidthsOf(c, list); len(blocks) != 0 || len(widths) != 0 {
+				t.Errorf("with %+v, %+v has the blocks %+v and the widths %v", c, list, blocks, widths)
 			}
-			for _, s := range []string{"", "a", "a\tb\n\t", "\t\f\t"} {
-				if got := impl.CountBlocks(c, s); got != 0 {
-					t.Errorf("CountBlocks(%+v, %q) = %d", c, s, got)
-				}
+		}
+		for _, s := range []string{"", "a", "a\tb\n\t", "\t\f\t"} {
+			if got := impl.CountBlocks(c, s); got != 0 {
+				t.Errorf("CountBlocks(%+v, %q) = %d", c, s, got)
 			}
 		}
 	}

@@ -633,27 +633,21 @@ func TestTabStopsAsTheyAreSeen(t *testing.T) {
 }
 
 func TestLayoutsOfInvalidConfigs(t *testing.T) {
-	for _, c := range invalidConfigs() {
-		for bits := range 32 {
-			right := c.Right
-			c := withFlags(c, bits)
-			// Some are not valid only because Right is set.
-			c.Right = c.Right || right
-			for _, l := range []impl.Line{{}, {End: 10}, line(10, "a"), line(0, "a", "b")} {
-				widths := slices.Repeat([]int{3}, len(l.Cells))
-				if got, all := impl.LayLine(c, l, widths), impl.LayLines(c, []impl.Line{l, l}); got != "" || all != "" {
-					t.Errorf("with %+v, %+v is laid as %q and, twice, as %q", c, l, got, all)
-				}
+	for _, c := range invalidConfigsWithFlags() {
+		for _, l := range []impl.Line{{}, {End: 10}, line(10, "a"), line(0, "a", "b")} {
+			widths := slices.Repeat([]int{3}, len(l.Cells))
+			if got, all := impl.LayLine(c, l, widths), impl.LayLines(c, []impl.Line{l, l}); got != "" || all != "" {
+				t.Errorf("with %+v, %+v is laid as %q and, twice, as %q", c, l, got, all)
 			}
-			for _, s := range []string{"", "a", "a\tb\n\t", "\n\f"} {
-				slots, width := impl.SlotsOf(c, s), impl.LayoutWidth(c, s)
-				if impl.Layout(c, s) != "" || slots != nil || impl.IsAligned(c, s) || width != 0 {
-					t.Errorf("with %+v, %q has the layout %q, the slots %v, %v and the width %d", c, s, impl.Layout(c, s), slots, impl.IsAligned(c, s), width)
-				}
+		}
+		for _, s := range []string{"", "a", "a\tb\n\t", "\n\f"} {
+			slots, width := impl.SlotsOf(c, s), impl.LayoutWidth(c, s)
+			if impl.Layout(c, s) != "" || slots != nil || impl.IsAligned(c, s) || width != 0 {
+				t.Errorf("with %+v, %q has the layout %q, the slots %v, %v and the width %d", c, s, impl.Layout(c, s), slots, impl.IsAligned(c, s), width)
 			}
-			if got := impl.LayLines(c, nil); got != "" {
-				t.Errorf("with %+v, no lines are laid as %q", c, got)
-			}
+		}
+		if got := impl.LayLines(c, nil); got != "" {
+			t.Errorf("with %+v, no lines are laid as %q", c, got)
 		}
 	}
 }
