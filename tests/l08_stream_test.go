@@ -46,13 +46,18 @@ func checkWrite(t *testing.T, w impl.Writer, chunk string) {
 	}
 }
 
+// flushed is what FlushText returns by the definitions of the tests.
+func flushed(w impl.Writer) (impl.Writer, string, int) {
+	if !isConfig(w.Config) {
+		return w, "", 1
+	}
+	return holding(w.Config, ""), layoutOf(w.Config, w.Held), 0
+}
+
 // checkFlush compares FlushText and Pending with the definitions.
 func checkFlush(t *testing.T, w impl.Writer) {
 	t.Helper()
-	wantNext, wantPassed, wantCode := w, "", 1
-	if isConfig(w.Config) {
-		wantNext, wantPassed, wantCode = holding(w.Config, ""), layoutOf(w.Config, w.Held), 0
-	}
+	wantNext, wantPassed, wantCode := flushed(w)
 	next, passed, code := impl.FlushText(w)
 	if next != wantNext || passed != wantPassed || code != wantCode {
 		t.Fatalf("FlushText(%+v) = %+v, %q, %d, want %+v, %q, %d", w, next, passed, code, wantNext, wantPassed, wantCode)
@@ -601,9 +606,9 @@ func TestClosedTextsWithTooWideCells(t *testing.T) {
 		if next, passed, code := impl.WriteText(w, wide+"\fy"); next != holding(c, "y") || passed != impl.Layout(c, "x\t"+wide+"\f") || passed == "" || code != 0 {
 			t.Errorf("a tail with the width 100001 leaves %.9q.., passes on %.9q.. and has the code %d", next.Held, passed, code)
 		}
-		flushed, passed, code := impl.FlushText(holding(c, wide+"\t\n"))
-		if flushed != holding(c, "") || passed != "" || code != 0 || impl.Pending(holding(c, wide+"\t\n")) != "" {
-			t.Errorf("a held cell with the width 100001 leaves %.9q.., passes on %.9q.. and has the code %d", flushed.Held, passed, code)
+		last, passed, code := impl.FlushText(holding(c, wide+"\t\n"))
+		if last != holding(c, "") || passed != "" || code != 0 || impl.Pending(holding(c, wide+"\t\n")) != "" {
+			t.Errorf("a held cell with the width 100001 leaves %.9q.., passes on %.9q.. and has the code %d", last.Held, passed, code)
 		}
 	}
 }
