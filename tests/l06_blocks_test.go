@@ -165,15 +165,15 @@ func checkCells(t *testing.T, c impl.Config, list []impl.Line) {
 	}
 }
 
-// listsOfLines calls f with all lists of up to n of these lines.
-func listsOfLines(lines []impl.Line, n int, f func(list []impl.Line)) {
-	lists := [][]impl.Line{nil}
+// eachList calls f with all lists of up to n of these elements.
+func eachList[E any](elements []E, n int, f func(list []E)) {
+	lists := [][]E{nil}
 	for range n {
-		var longer [][]impl.Line
+		var longer [][]E
 		for _, list := range lists {
 			f(list)
-			for _, l := range lines {
-				longer = append(longer, append(slices.Clip(list), l))
+			for _, e := range elements {
+				longer = append(longer, append(slices.Clip(list), e))
 			}
 		}
 		lists = longer
@@ -375,7 +375,7 @@ func TestBlocksByDefinition(t *testing.T) {
 		lines = append(lines, lineOfWidths(10, widths...), lineOfWidths(12, widths...))
 	}
 	lines = append(lines, lineOfWidths(0, 4, 1), lineOfWidths(7, 0))
-	listsOfLines(lines, 3, func(list []impl.Line) {
+	eachList(lines, 3, func(list []impl.Line) {
 		for _, c := range blockConfigs {
 			checkBlocks(t, c, list)
 			checkCells(t, c, list)
@@ -383,7 +383,7 @@ func TestBlocksByDefinition(t *testing.T) {
 	})
 	// Longer lists, with no more than the numbers of cells.
 	few := []impl.Line{lineOfWidths(10), lineOfWidths(10, 1), lineOfWidths(10, 0, 2), lineOfWidths(12, 3, 1, 0)}
-	listsOfLines(few, 6, func(list []impl.Line) {
+	eachList(few, 6, func(list []impl.Line) {
 		checkBlocks(t, droppingConfig, list)
 		checkCells(t, droppingConfig, list)
 	})

@@ -456,17 +456,8 @@ func TestRunOpsWithoutOps(t *testing.T) {
 // listsOfOps returns all lists of at most n operations that pass on nothing or something, begin anew, or are refused.
 func listsOfOps(n int) [][]impl.Op {
 	choices := []impl.Op{initOp(ordinaryConfig), initOp(impl.Config{}), writeOp(""), writeOp("a\t"), writeOp("b\n"), writeOp("\u4e2d\f"), writeOp(strings.Repeat("c", 400)), flushOp(), {Kind: 4}}
-	all := [][]impl.Op{nil}
-	from := 0
-	for range n {
-		to := len(all)
-		for _, list := range all[from:to] {
-			for _, o := range choices {
-				all = append(all, append(slices.Clone(list), o))
-			}
-		}
-		from = to
-	}
+	var all [][]impl.Op
+	eachList(choices, n, func(list []impl.Op) { all = append(all, list) })
 	return all
 }
 
